@@ -1,0 +1,180 @@
+package tests
+
+import (
+	"reflect"
+	"slices"
+	"testing"
+
+	"loop.example/g00311/impl"
+)
+
+// run gives n words that rise from first on, so that no two places of a block hold the same.
+func run(first int64, n int) []int64 {
+	var list []int64
+	for i := range n {
+		list = append(list, first+int64(i))
+	}
+	return list
+}
+
+func same(word int64, n int) []int64 {
+	return slices.Repeat([]int64{word}, n)
+}
+
+func sameBlocks(a [][]int64, b [][]int64) bool {
+	return slices.EqualFunc(a, b, func(x, y []int64) bool { return slices.Equal(x, y) })
+}
+
+func samePuts(a []impl.Put, b []impl.Put) bool {
+	return slices.EqualFunc(a, b, func(x, y impl.Put) bool { return x.At == y.At && slices.Equal(x.Words, y.Words) })
+}
+
+func sameDisks(a impl.Disk, b impl.Disk) bool {
+	return sameBlocks(a.Blocks, b.Blocks) && samePuts(a.Cache, b.Cache)
+}
+
+// emptyDisk has size blocks, whatever size is.
+func emptyDisk(size int) impl.Disk {
+	return impl.Disk{Blocks: make([][]int64, size)}
+}
+
+// putsAt gives n puts of one word each at the same block.
+func putsAt(at int64, n int) []impl.Put {
+	var list []impl.Put
+	for i := range n {
+		list = append(list, impl.Put{At: at, Words: []int64{int64(i)}})
+	}
+	return list
+}
+
+func mustDisk(t *testing.T, r impl.DiskResult) impl.Disk {
+	t.Helper()
+	if r.Code != impl.OK {
+		t.Fatalf("code %d", r.Code)
+	}
+	return r.Disk
+}
+
+func wantDiskCode(t *testing.T, name string, r impl.DiskResult, code int64) {
+	t.Helper()
+	if r.Code != code {
+		t.Errorf("%s: code %d, want %d", name, r.Code, code)
+	}
+	if r.Code != impl.OK && (len(r.Disk.Blocks) != 0 || len(r.Disk.Cache) != 0) {
+		t.Errorf("%s: beside code %d there is a disk", name, r.Code)
+	}
+}
+
+func wantIntsCode(t *testing.T, name string, r impl.IntsResult, code int64) {
+	t.Helper()
+	if r.Code != code {
+		t.Errorf("%s: code %d, want %d", name, r.Code, code)
+	}
+	if r.Code != impl.OK && len(r.List) != 0 {
+		t.Errorf("%s: beside code %d there is a list", name, r.Code)
+	}
+}
+
+func wantWords(t *testing.T, name string, r impl.IntsResult, want []int64) {
+	t.Helper()
+	if r.Code != impl.OK || !slices.Equal(r.List, want) {
+		t.Errorf("%s: %v, want %v", name, r, want)
+	}
+}
+
+// span is the memory of a slice, with what its capacity has behind its end.
+type span struct{ from, to uintptr }
+
+func spansOf(v reflect.Value) []span {
+	var list []span
+	switch v.Kind() {
+	case reflect.Struct:
+		for i := range v.NumField() {
+			list = append(list, spansOf(v.Field(i))...)
+		}
+	case reflect.Slice:
+		if size := uintptr(v.Cap()) * v.Type().Elem().Size(); size > 0 {
+			list = append(list, span{v.Pointer(), v.Pointer() + size})
+		}
+		for i := range v.Len() {
+			list = append(list, spansOf(v.Index(i))...)
+		}
+	}
+	return list
+}
+
+func overlap(a span, b span) bool {
+	return a.from < b.to && b.from < a.to
+}
+
+// wantNewMemory fails if answer shares memory with one of args, or two lists of it share some.
+func wantNewMemory(t *testing.T, name string, answer any, args ...any) {
+	t.Helper()
+	out := spansOf(reflect.ValueOf(answer))
+	for i, a := range out {
+		for _, b := range out[i+1:] {
+			if overlap(a, b) {
+				t.Errorf("%s: two lists of the answer share memory", name)
+			}
+		}
+		for _, arg := range args {
+			for _, b := range spansOf(reflect.ValueOf(arg)) {
+				if overlap(a, b) {
+					t.Errorf("%s: the answer shares memory with an argument", name)
+				}
+			}
+		}
+	}
+}
+
+// roomy copies v so deep that nothing is shared, each list with room behind its end, which wantUnchanged looks at.
+func roomy(v reflect.Value) reflect.Value {
+	switch v.Kind() {
+	case reflect.Interface:
+		return roomy(v.Elem())
+	case reflect.Struct:
+		c := reflect.New(v.Type()).Elem()
+		for i := range v.NumField() {
+			c.Field(i).Set(roomy(v.Field(i)))
+		}
+		return c
+	case reflect.Slice:
+		c := reflect.MakeSlice(v.Type(), v.Len(), v.Len()+3)
+		for i := range v.Len() {
+			c.Index(i).Set(roomy(v.Index(i)))
+		}
+		return c
+	}
+	return v
+}
+
+func roomyCopy[T any](x T) T {
+	return roomy(reflect.ValueOf(&x).Elem()).Interface().(T)
+}
+
+// wantUnchanged fails if now, which was made by roomyCopy, is another than was, or something was written behind the end of one of its lists.
+func wantUnchanged(t *testing.T, name string, now any, was any) {
+	t.Helper()
+	if !reflect.DeepEqual(now, was) || !roomClean(reflect.ValueOf(now)) {
+		t.Errorf("%s: an argument was changed", name)
+	}
+}
+
+func roomClean(v reflect.Value) bool {
+	clean := true
+	switch v.Kind() {
+	case reflect.Struct:
+		for i := range v.NumField() {
+			clean = clean && roomClean(v.Field(i))
+		}
+	case reflect.Slice:
+		for i := range v.Len() {
+			clean = clean && roomClean(v.Index(i))
+		}
+		room := v.Slice(0, v.Cap())
+		for i := v.Len(); i < room.Len(); i++ {
+			clean = clean && room.Index(i).IsZero()
+		}
+	}
+	return clean
+}

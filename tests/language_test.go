@@ -1,0 +1,90 @@
+package tests
+
+import (
+	"bytes"
+	"go/ast"
+	"go/format"
+	"go/parser"
+	"go/token"
+	"os"
+	"path/filepath"
+	"slices"
+	"strconv"
+	"strings"
+	"testing"
+)
+
+// The program keeps to the language page: its imports, its layout, the length of its functions.
+
+var allowedImports = strings.Fields("bytes cmp container/heap errors iter maps math math/bits slices sort strconv strings sync sync/atomic unicode unicode/utf8")
+
+func programFiles(t *testing.T) []string {
+	t.Helper()
+	files, err := filepath.Glob("../impl/*.go")
+	if err != nil || len(files) == 0 {
+		t.Fatalf("no files of the program: %v", err)
+	}
+	return files
+}
+
+func TestProgramKeepsToTheLanguage(t *testing.T) {
+	for _, path := range programFiles(t) {
+		text, err := os.ReadFile(path)
+		if err != nil {
+			t.Fatal(err)
+		}
+		if tidy, err := format.Source(text); err != nil || !bytes.Equal(tidy, text) {
+			t.Errorf("%s: not in gofmt's layout", path)
+		}
+		if bytes.Contains(text, []byte("//go:")) || bytes.Contains(text, []byte("// +build")) {
+			t.Errorf("%s: a line to the compiler", path)
+		}
+		set := token.NewFileSet()
+		file, err := parser.ParseFile(set, path, text, 0)
+		if err != nil {
+			t.Fatal(err)
+		}
+		for _, i := range file.Imports {
+			if name, _ := strconv.Unquote(i.Path.Value); !slices.Contains(allowedImports, name) {
+				t.Errorf("%s: imports %s", path, name)
+			}
+		}
+		wantShortFunctions(t, set, file)
+	}
+}
+
+func wantShortFunctions(t *testing.T, set *token.FileSet, file *ast.File) {
+	t.Helper()
+	for _, d := range file.Decls {
+		if f, ok := d.(*ast.FuncDecl); ok {
+			if n := set.Position(f.End()).Line - set.Position(f.Pos()).Line + 1; n > 60 {
+				t.Errorf("%s: %d lines", f.Name.Name, n)
+			}
+		}
+	}
+}
+
+// Way 1: a block is told by complex numbers, and halves are arrays.
+func TestWayOfTheDisk(t *testing.T) {
+	file, err := parser.ParseFile(token.NewFileSet(), "../impl/l01_disk.go", nil, 0)
+	if err != nil {
+		t.Fatal(err)
+	}
+	arrays, complexes := 0, 0
+	ast.Inspect(file, func(n ast.Node) bool {
+		switch x := n.(type) {
+		case *ast.ArrayType:
+			if x.Len != nil {
+				arrays++
+			}
+		case *ast.Ident:
+			if x.Name == "complex" {
+				complexes++
+			}
+		}
+		return true
+	})
+	if arrays == 0 || complexes == 0 {
+		t.Errorf("%d arrays, %d complex numbers", arrays, complexes)
+	}
+}
