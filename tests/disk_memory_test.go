@@ -1,7 +1,6 @@
 package tests
 
 import (
-	"reflect"
 	"testing"
 
 	"loop.example/g00311/impl"
@@ -10,9 +9,9 @@ import (
 // Promise 1: no argument is changed, an answer is new memory and hangs on the arguments alone.
 
 type diskArgs struct {
-	disk             impl.Disk
-	at, pick         int64
-	old, next, picks []int64
+	Disk             impl.Disk
+	At, Pick         int64
+	Old, Next, Picks []int64
 }
 
 func diskArgsList() []diskArgs {
@@ -35,83 +34,20 @@ func diskArgsList() []diskArgs {
 	return list
 }
 
-type diskCall struct {
-	name string
-	call func(a diskArgs) any
-}
-
-func diskCalls() []diskCall {
-	return []diskCall{
-		{"DiskFault", func(a diskArgs) any { return impl.DiskFault(a.disk) }},
-		{"NewDisk", func(a diskArgs) any { return impl.NewDisk(a.at) }},
-		{"PutBlock", func(a diskArgs) any { return impl.PutBlock(a.disk, a.at, a.next) }},
-		{"BlockAt", func(a diskArgs) any { return impl.BlockAt(a.disk, a.at) }},
-		{"FlushDisk", func(a diskArgs) any { return impl.FlushDisk(a.disk) }},
-		{"CrashDisk", func(a diskArgs) any { return impl.CrashDisk(a.disk, a.picks) }},
-		{"TearWords", func(a diskArgs) any { return impl.TearWords(a.old, a.next, a.pick) }},
+func diskCalls() []namedCall[diskArgs] {
+	return []namedCall[diskArgs]{
+		{"DiskFault", func(a diskArgs) any { return impl.DiskFault(a.Disk) }},
+		{"NewDisk", func(a diskArgs) any { return impl.NewDisk(a.At) }},
+		{"PutBlock", func(a diskArgs) any { return impl.PutBlock(a.Disk, a.At, a.Next) }},
+		{"BlockAt", func(a diskArgs) any { return impl.BlockAt(a.Disk, a.At) }},
+		{"FlushDisk", func(a diskArgs) any { return impl.FlushDisk(a.Disk) }},
+		{"CrashDisk", func(a diskArgs) any { return impl.CrashDisk(a.Disk, a.Picks) }},
+		{"TearWords", func(a diskArgs) any { return impl.TearWords(a.Old, a.Next, a.Pick) }},
 	}
 }
 
-func roomyArgs(a diskArgs) diskArgs {
-	return diskArgs{roomyCopy(a.disk), a.at, a.pick, roomyCopy(a.old), roomyCopy(a.next), roomyCopy(a.picks)}
-}
-
-func TestDiskCallsChangeNoArgument(t *testing.T) {
-	for _, args := range diskArgsList() {
-		now, was := roomyArgs(args), roomyArgs(args)
-		for _, c := range diskCalls() {
-			c.call(now)
-			wantUnchanged(t, c.name, now.disk, was.disk)
-			wantUnchanged(t, c.name, now.old, was.old)
-			wantUnchanged(t, c.name, now.next, was.next)
-			wantUnchanged(t, c.name, now.picks, was.picks)
-		}
-	}
-}
-
-func TestDiskAnswersAreNewMemory(t *testing.T) {
-	for _, args := range diskArgsList() {
-		given := roomyArgs(args)
-		for _, c := range diskCalls() {
-			first, second := c.call(given), c.call(given)
-			wantNewMemory(t, c.name, first, given.disk, given.old, given.next, given.picks)
-			wantNewMemory(t, c.name+" called twice", first, second)
-		}
-	}
-}
-
-// What is written into an answer must come to light nowhere else, not in a later answer either.
-func TestDiskAnswersHangOnArgumentsAlone(t *testing.T) {
-	for _, args := range diskArgsList() {
-		for _, c := range diskCalls() {
-			first := c.call(roomyArgs(args))
-			want := roomyCopy(first)
-			spoil(reflect.ValueOf(&first).Elem().Elem())
-			for _, other := range diskCalls() {
-				other.call(roomyArgs(args))
-			}
-			if again := roomyCopy(c.call(args)); !reflect.DeepEqual(again, want) {
-				t.Fatalf("%s: %v, then %v", c.name, want, again)
-			}
-		}
-	}
-}
-
-func spoil(v reflect.Value) {
-	switch v.Kind() {
-	case reflect.Struct:
-		for i := range v.NumField() {
-			spoil(v.Field(i))
-		}
-	case reflect.Slice:
-		for i := range v.Len() {
-			spoil(v.Index(i))
-		}
-	case reflect.Int64:
-		if v.CanSet() {
-			v.SetInt(-77)
-		}
-	}
+func TestDiskCallsKeepToTheirArguments(t *testing.T) {
+	wantCallsApart(t, diskCalls(), diskArgsList())
 }
 
 // One put whose words are handed in twice, and blocks that are one list: the answer still shares nothing.

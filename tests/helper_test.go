@@ -82,6 +82,32 @@ func wantWords(t *testing.T, name string, r impl.IntsResult, want []int64) {
 	}
 }
 
+func sameHeaders(a impl.Header, b impl.Header) bool {
+	return a.Seq == b.Seq && a.Start == b.Start && slices.Equal(a.Addrs, b.Addrs)
+}
+
+func wantHeaderResult(t *testing.T, name string, r impl.HeaderResult, want impl.HeaderResult) {
+	t.Helper()
+	if r.Code != want.Code || !sameHeaders(r.Header, want.Header) {
+		t.Errorf("%s: %v, want %v", name, r, want)
+	}
+}
+
+func wantHeader(t *testing.T, name string, r impl.HeaderResult, want impl.Header) {
+	t.Helper()
+	wantHeaderResult(t, name, r, impl.HeaderResult{Header: want})
+}
+
+func wantHeaderCode(t *testing.T, name string, r impl.HeaderResult, code int64) {
+	t.Helper()
+	if r.Code != code {
+		t.Errorf("%s: code %d, want %d", name, r.Code, code)
+	}
+	if r.Code != impl.OK && !sameHeaders(r.Header, impl.Header{}) {
+		t.Errorf("%s: beside code %d there is a header", name, r.Code)
+	}
+}
+
 // span is the memory of a slice, with what its capacity has behind its end.
 type span struct{ from, to uintptr }
 
@@ -177,4 +203,56 @@ func roomClean(v reflect.Value) bool {
 		}
 	}
 	return clean
+}
+
+// namedCall is a function of the program that takes its arguments from an A, whose fields are exported.
+type namedCall[A any] struct {
+	name string
+	call func(args A) any
+}
+
+// wantCallsApart fails if a call changes an argument, answers with memory that is not new, or hangs on anything but its arguments.
+func wantCallsApart[A any](t *testing.T, calls []namedCall[A], list []A) {
+	t.Helper()
+	for _, args := range list {
+		for _, c := range calls {
+			now, was := roomyCopy(args), roomyCopy(args)
+			first, second := c.call(now), c.call(now)
+			wantUnchanged(t, c.name, now, was)
+			wantNewMemory(t, c.name, first, now)
+			wantNewMemory(t, c.name+" called twice", first, second)
+			wantSameAgain(t, c, calls, args)
+		}
+	}
+}
+
+// wantSameAgain writes into an answer: that must come to light nowhere else, not in a later answer either.
+func wantSameAgain[A any](t *testing.T, c namedCall[A], calls []namedCall[A], args A) {
+	t.Helper()
+	first := c.call(roomyCopy(args))
+	want := roomyCopy(first)
+	spoil(reflect.ValueOf(&first).Elem().Elem())
+	for _, other := range calls {
+		other.call(roomyCopy(args))
+	}
+	if again := roomyCopy(c.call(args)); !reflect.DeepEqual(again, want) {
+		t.Fatalf("%s: %v, then %v", c.name, want, again)
+	}
+}
+
+func spoil(v reflect.Value) {
+	switch v.Kind() {
+	case reflect.Struct:
+		for i := range v.NumField() {
+			spoil(v.Field(i))
+		}
+	case reflect.Slice:
+		for i := range v.Len() {
+			spoil(v.Index(i))
+		}
+	case reflect.Int64:
+		if v.CanSet() {
+			v.SetInt(-77)
+		}
+	}
 }

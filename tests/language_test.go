@@ -64,27 +64,52 @@ func wantShortFunctions(t *testing.T, set *token.FileSet, file *ast.File) {
 	}
 }
 
-// Way 1: a block is told by complex numbers, and halves are arrays.
-func TestWayOfTheDisk(t *testing.T) {
-	file, err := parser.ParseFile(token.NewFileSet(), "../impl/l01_disk.go", nil, 0)
+// wayOf counts in a file of the program the places at which is holds.
+func wayOf(t *testing.T, path string, is func(n ast.Node) bool) int {
+	t.Helper()
+	file, err := parser.ParseFile(token.NewFileSet(), path, nil, 0)
 	if err != nil {
 		t.Fatal(err)
 	}
-	arrays, complexes := 0, 0
+	count := 0
 	ast.Inspect(file, func(n ast.Node) bool {
-		switch x := n.(type) {
-		case *ast.ArrayType:
-			if x.Len != nil {
-				arrays++
-			}
-		case *ast.Ident:
-			if x.Name == "complex" {
-				complexes++
-			}
+		if n != nil && is(n) {
+			count++
 		}
 		return true
 	})
-	if arrays == 0 || complexes == 0 {
-		t.Errorf("%d arrays, %d complex numbers", arrays, complexes)
+	return count
+}
+
+func isArray(n ast.Node) bool {
+	x, ok := n.(*ast.ArrayType)
+	return ok && x.Len != nil
+}
+
+func isGoto(n ast.Node) bool {
+	x, ok := n.(*ast.BranchStmt)
+	return ok && x.Tok == token.GOTO
+}
+
+func isName(names ...string) func(n ast.Node) bool {
+	return func(n ast.Node) bool {
+		x, ok := n.(*ast.Ident)
+		return ok && slices.Contains(names, x.Name)
+	}
+}
+
+// Way 1: a block is told by complex numbers, and halves are arrays.
+func TestWayOfTheDisk(t *testing.T) {
+	path := "../impl/l01_disk.go"
+	if wayOf(t, path, isArray) == 0 || wayOf(t, path, isName("complex")) == 0 {
+		t.Error("no arrays or no complex numbers")
+	}
+}
+
+// Way 2: a header is read by a machine with goto, and numbers are unsigned.
+func TestWayOfHeaders(t *testing.T) {
+	path := "../impl/l02_header.go"
+	if wayOf(t, path, isGoto) == 0 || wayOf(t, path, isName("uint16", "uint32", "uint64")) == 0 {
+		t.Error("no goto or no unsigned numbers")
 	}
 }
