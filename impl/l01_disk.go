@@ -96,20 +96,16 @@ func PutBlock(d Disk, at int64, words []int64) DiskResult {
 	if len(d.Cache) >= maxCache {
 		return DiskResult{Code: ErrMany}
 	}
-	cache := append(copyPuts(d.Cache), Put{At: at, Words: copyWords(words)})
-	return DiskResult{Disk: Disk{Blocks: copyBlocks(d.Blocks), Cache: cache}}
+	next := copyDisk(d)
+	next.Cache = append(next.Cache, Put{At: at, Words: copyWords(words)})
+	return DiskResult{Disk: next}
 }
 
 func BlockAt(d Disk, at int64) IntsResult {
 	if code := placeFault(d, at); code != OK {
 		return IntsResult{Code: code}
 	}
-	for i := len(d.Cache) - 1; i >= 0; i-- {
-		if d.Cache[i].At == at {
-			return IntsResult{List: copyWords(d.Cache[i].Words)}
-		}
-	}
-	return IntsResult{List: copyWords(d.Blocks[at])}
+	return IntsResult{List: wordsAt(d, at)}
 }
 
 func FlushDisk(d Disk) DiskResult {
@@ -188,6 +184,17 @@ func isPlace(d Disk, at int64) bool {
 	return at >= 0 && at < int64(len(d.Blocks))
 }
 
+// wordsAt takes a place of a disk that has no fault, so that whoever reads many
+// blocks asks for faults once.
+func wordsAt(d Disk, at int64) []int64 {
+	for i := len(d.Cache) - 1; i >= 0; i-- {
+		if d.Cache[i].At == at {
+			return copyWords(d.Cache[i].Words)
+		}
+	}
+	return copyWords(d.Blocks[at])
+}
+
 func isPick(pick int64) bool {
 	return pick >= KeepNone && pick <= KeepSecond
 }
@@ -246,6 +253,10 @@ func putCell(words []int64, cell complex128) []int64 {
 
 func copyWords(words []int64) []int64 {
 	return append([]int64(nil), words...)
+}
+
+func copyDisk(d Disk) Disk {
+	return Disk{Blocks: copyBlocks(d.Blocks), Cache: copyPuts(d.Cache)}
 }
 
 func copyBlocks(blocks [][]int64) [][]int64 {

@@ -55,24 +55,25 @@ func mustDisk(t *testing.T, r impl.DiskResult) impl.Disk {
 	return r.Disk
 }
 
+// wantCode fails if the code is another than want, or if beside a code that is not OK the rest of the answer is not empty.
+func wantCode(t *testing.T, name string, code int64, empty bool, want int64) {
+	t.Helper()
+	if code != want {
+		t.Errorf("%s: code %d, want %d", name, code, want)
+	}
+	if code != impl.OK && !empty {
+		t.Errorf("%s: beside code %d there is something", name, code)
+	}
+}
+
 func wantDiskCode(t *testing.T, name string, r impl.DiskResult, code int64) {
 	t.Helper()
-	if r.Code != code {
-		t.Errorf("%s: code %d, want %d", name, r.Code, code)
-	}
-	if r.Code != impl.OK && (len(r.Disk.Blocks) != 0 || len(r.Disk.Cache) != 0) {
-		t.Errorf("%s: beside code %d there is a disk", name, r.Code)
-	}
+	wantCode(t, name, r.Code, len(r.Disk.Blocks) == 0 && len(r.Disk.Cache) == 0, code)
 }
 
 func wantIntsCode(t *testing.T, name string, r impl.IntsResult, code int64) {
 	t.Helper()
-	if r.Code != code {
-		t.Errorf("%s: code %d, want %d", name, r.Code, code)
-	}
-	if r.Code != impl.OK && len(r.List) != 0 {
-		t.Errorf("%s: beside code %d there is a list", name, r.Code)
-	}
+	wantCode(t, name, r.Code, len(r.List) == 0, code)
 }
 
 func wantWords(t *testing.T, name string, r impl.IntsResult, want []int64) {
@@ -100,11 +101,51 @@ func wantHeader(t *testing.T, name string, r impl.HeaderResult, want impl.Header
 
 func wantHeaderCode(t *testing.T, name string, r impl.HeaderResult, code int64) {
 	t.Helper()
-	if r.Code != code {
-		t.Errorf("%s: code %d, want %d", name, r.Code, code)
+	wantCode(t, name, r.Code, sameHeaders(r.Header, impl.Header{}), code)
+}
+
+func sameSteps(a []impl.Step, b []impl.Step) bool {
+	return slices.EqualFunc(a, b, func(x, y impl.Step) bool {
+		return x.Flush == y.Flush && x.At == y.At && slices.Equal(x.Words, y.Words)
+	})
+}
+
+func mustSteps(t *testing.T, r impl.StepsResult) []impl.Step {
+	t.Helper()
+	if r.Code != impl.OK {
+		t.Fatalf("code %d", r.Code)
 	}
-	if r.Code != impl.OK && !sameHeaders(r.Header, impl.Header{}) {
-		t.Errorf("%s: beside code %d there is a header", name, r.Code)
+	return r.Steps
+}
+
+func wantSteps(t *testing.T, name string, r impl.StepsResult, want []impl.Step) {
+	t.Helper()
+	if r.Code != impl.OK || !sameSteps(r.Steps, want) {
+		t.Errorf("%s: %v, want %v", name, r, want)
+	}
+}
+
+func wantStepsCode(t *testing.T, name string, r impl.StepsResult, code int64) {
+	t.Helper()
+	wantCode(t, name, r.Code, len(r.Steps) == 0, code)
+}
+
+func wantPuts(t *testing.T, name string, r impl.PutsResult, want []impl.Put) {
+	t.Helper()
+	if r.Code != impl.OK || !samePuts(r.Puts, want) {
+		t.Errorf("%s: %v, want %v", name, r, want)
+	}
+}
+
+func wantPutsCode(t *testing.T, name string, r impl.PutsResult, code int64) {
+	t.Helper()
+	wantCode(t, name, r.Code, len(r.Puts) == 0, code)
+}
+
+func wantInt(t *testing.T, name string, r impl.IntResult, want impl.IntResult) {
+	t.Helper()
+	if r != want {
+		t.Errorf("%s: %v, want %v", name, r, want)
 	}
 }
 

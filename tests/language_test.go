@@ -98,6 +98,21 @@ func isName(names ...string) func(n ast.Node) bool {
 	}
 }
 
+func isGenericFunction(n ast.Node) bool {
+	x, ok := n.(*ast.FuncDecl)
+	return ok && x.Type.TypeParams.NumFields() > 0
+}
+
+// isCountedRange sees a range over a conversion or a length; what a name or a call answers, no text alone can tell.
+func isCountedRange(n ast.Node) bool {
+	x, ok := n.(*ast.RangeStmt)
+	if !ok {
+		return false
+	}
+	call, ok := x.X.(*ast.CallExpr)
+	return ok && isName("int", "int64", "len")(call.Fun)
+}
+
 // Way 1: a block is told by complex numbers, and halves are arrays.
 func TestWayOfTheDisk(t *testing.T) {
 	path := "../impl/l01_disk.go"
@@ -111,5 +126,13 @@ func TestWayOfHeaders(t *testing.T) {
 	path := "../impl/l02_header.go"
 	if wayOf(t, path, isGoto) == 0 || wayOf(t, path, isName("uint16", "uint32", "uint64")) == 0 {
 		t.Error("no goto or no unsigned numbers")
+	}
+}
+
+// Way 3: steps are told by a generic function; ranges are over integers.
+func TestWayOfTheCircularLog(t *testing.T) {
+	path := "../impl/l03_circ.go"
+	if wayOf(t, path, isGenericFunction) == 0 || wayOf(t, path, isCountedRange) == 0 {
+		t.Error("no generic function or no range over an integer")
 	}
 }
