@@ -120,16 +120,22 @@ func TestGreatestAppendCutOff(t *testing.T) {
 		steps := mustSteps(t, impl.PlanAppend(d, batchOf(12)))
 		for cut := range len(steps) + 1 {
 			now := cutAt(t, d, steps, cut)
-			for i := range int64(40) {
-				picks := same(i, 12)
-				if i > 3 {
-					picks = randomPicks(rnd, 12)
-				}
+			somePicks(rnd, 12, func(picks []int64) {
 				crashed := mustDisk(t, impl.CrashDisk(now, picks))
 				done := cut == 15 || cut == 14 && picks[0] == impl.KeepAll
 				wantLogIs(t, "crashed", crashed, done, was, all)
-			}
+			})
 		}
+	}
+}
+
+// somePicks calls do with n picks that are all the same, and with others at random.
+func somePicks(rnd *rand.Rand, n int, do func(picks []int64)) {
+	for pick := range int64(4) {
+		do(same(pick, n))
+	}
+	for range 36 {
+		do(randomPicks(rnd, n))
 	}
 }
 

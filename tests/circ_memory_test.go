@@ -57,14 +57,20 @@ func TestCircCallsKeepToTheirArguments(t *testing.T) {
 	wantCallsApart(t, circCalls(), circArgsList())
 }
 
-// Puts, steps and slots that are one list: the answer still shares nothing.
-func TestSharedWordsLeadToStepsOfTheirOwn(t *testing.T) {
-	words := run(1, 50)
+// sharedDisk has the same list in its slots, its home blocks and its cache.
+func sharedDisk(words []int64) impl.Disk {
 	d := logDisk(9, 22, 4)
 	for at := 2; at < 66; at++ {
 		d.Blocks[at] = words
 	}
-	d.Cache = []impl.Put{{At: 25, Words: words}, {At: 3, Words: words}}
+	d.Cache = []impl.Put{{At: 25, Words: words}, {At: 3, Words: words}, {At: 30, Words: words}}
+	return d
+}
+
+// Puts, steps and slots that are one list: the answer still shares nothing.
+func TestSharedWordsLeadToStepsOfTheirOwn(t *testing.T) {
+	words := run(1, 50)
+	d := sharedDisk(words)
 	puts := []impl.Put{{At: 1, Words: words}, {At: 1, Words: words}, {At: 2, Words: words}}
 	steps := []impl.Step{{At: 1, Words: words}, {At: 2, Words: words}, {Flush: true}, {At: 1, Words: words}}
 	wantNewMemory(t, "PlanAppend", impl.PlanAppend(d, puts), d, puts)

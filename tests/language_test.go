@@ -136,3 +136,23 @@ func TestWayOfTheCircularLog(t *testing.T) {
 		t.Error("no generic function or no range over an integer")
 	}
 }
+
+func isMap(n ast.Node) bool {
+	_, ok := n.(*ast.MapType)
+	return ok
+}
+
+func isCallOf(name string) func(n ast.Node) bool {
+	return func(n ast.Node) bool {
+		x, ok := n.(*ast.CallExpr)
+		return ok && isName(name)(x.Fun)
+	}
+}
+
+// Way 4: what is seen stands in a map, and one that is gone is deleted.
+func TestWayOfWhatIsSeen(t *testing.T) {
+	path := "../impl/l04_view.go"
+	if wayOf(t, path, isMap) == 0 || wayOf(t, path, isCallOf("delete")) == 0 {
+		t.Error("no map or no delete")
+	}
+}
