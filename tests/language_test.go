@@ -156,3 +156,21 @@ func TestWayOfWhatIsSeen(t *testing.T) {
 		t.Error("no map or no delete")
 	}
 }
+
+func isEmbedding(n ast.Node) bool {
+	x, ok := n.(*ast.StructType)
+	return ok && slices.ContainsFunc(x.Fields.List, func(f *ast.Field) bool { return len(f.Names) == 0 })
+}
+
+func isMethod(n ast.Node) bool {
+	x, ok := n.(*ast.FuncDecl)
+	return ok && x.Recv != nil
+}
+
+// Way 5: words are copied; an object embeds its place, and has methods. That they are promoted, the given test of this stage asks.
+func TestWayOfObjects(t *testing.T) {
+	path := "../impl/l05_object.go"
+	if wayOf(t, path, isCallOf("copy")) == 0 || wayOf(t, path, isEmbedding) == 0 || wayOf(t, path, isMethod) == 0 {
+		t.Error("no copy, no embedding or no methods")
+	}
+}
