@@ -174,3 +174,36 @@ func TestWayOfObjects(t *testing.T) {
 		t.Error("no copy, no embedding or no methods")
 	}
 }
+
+// isStructMap sees a map whose keys are one of the named types.
+func isStructMap(names ...string) func(n ast.Node) bool {
+	return func(n ast.Node) bool {
+		x, ok := n.(*ast.MapType)
+		return ok && isName(names...)(x.Key)
+	}
+}
+
+// structsIn tells the names of the struct types of a file of the program.
+func structsIn(t *testing.T, path string) []string {
+	t.Helper()
+	var names []string
+	wayOf(t, path, func(n ast.Node) bool {
+		x, ok := n.(*ast.TypeSpec)
+		if !ok {
+			return false
+		}
+		if _, ok = x.Type.(*ast.StructType); ok {
+			names = append(names, x.Name.Name)
+		}
+		return ok
+	})
+	return names
+}
+
+// Way 6: who has what is a map with structs as keys, and what is free is cleared.
+func TestWayOfLocks(t *testing.T) {
+	path := "../impl/l06_lock.go"
+	if wayOf(t, path, isStructMap(structsIn(t, path)...)) == 0 || wayOf(t, path, isCallOf("clear")) == 0 {
+		t.Error("no map with structs as keys or no clear")
+	}
+}
