@@ -207,3 +207,25 @@ func TestWayOfLocks(t *testing.T) {
 		t.Error("no map with structs as keys or no clear")
 	}
 }
+
+func isFunctionType(n ast.Node) bool {
+	x, ok := n.(*ast.TypeSpec)
+	if !ok {
+		return false
+	}
+	_, ok = x.Type.(*ast.FuncType)
+	return ok
+}
+
+func isClosure(n ast.Node) bool {
+	_, ok := n.(*ast.FuncLit)
+	return ok
+}
+
+// Way 7: which are taken is a closure.
+func TestWayOfFreeBlocks(t *testing.T) {
+	path := "../impl/l07_alloc.go"
+	if wayOf(t, path, isFunctionType) == 0 || wayOf(t, path, isClosure) == 0 {
+		t.Error("no closure")
+	}
+}
