@@ -229,3 +229,19 @@ func TestWayOfFreeBlocks(t *testing.T) {
 		t.Error("no closure")
 	}
 }
+
+// isPointerTo sees a pointer to the named type.
+func isPointerTo(name string) func(n ast.Node) bool {
+	return func(n ast.Node) bool {
+		x, ok := n.(*ast.StarExpr)
+		return ok && isName(name)(x.X)
+	}
+}
+
+// Way 8: a file is pointed at. That structs are compared, the given test of this stage asks.
+func TestWayOfFiles(t *testing.T) {
+	path := "../impl/l08_file.go"
+	if wayOf(t, path, isPointerTo("File")) == 0 || !slices.Contains(structsIn(t, path), "label") {
+		t.Error("no file is pointed at, or there is nothing to compare")
+	}
+}
