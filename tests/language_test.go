@@ -245,3 +245,35 @@ func TestWayOfFiles(t *testing.T) {
 		t.Error("no file is pointed at, or there is nothing to compare")
 	}
 }
+
+// isDeferredRecover sees a function literal that is deferred and calls recover.
+func isDeferredRecover(n ast.Node) bool {
+	x, ok := n.(*ast.DeferStmt)
+	if !ok {
+		return false
+	}
+	body, ok := x.Call.Fun.(*ast.FuncLit)
+	if !ok {
+		return false
+	}
+	found := false
+	ast.Inspect(body, func(n ast.Node) bool {
+		found = found || isCallOf("recover")(n)
+		return true
+	})
+	return found
+}
+
+// isFaceThatRecovers sees an exported function that recovers by itself.
+func isFaceThatRecovers(n ast.Node) bool {
+	x, ok := n.(*ast.FuncDecl)
+	return ok && x.Name.IsExported() && slices.ContainsFunc(x.Body.List, func(s ast.Stmt) bool { return isDeferredRecover(s) })
+}
+
+// Way 9: what cannot be read is a panic, recovered at the face.
+func TestWayOfEntries(t *testing.T) {
+	path := "../impl/l09_entry.go"
+	if wayOf(t, path, isCallOf("panic")) == 0 || wayOf(t, path, isFaceThatRecovers) == 0 {
+		t.Error("no panic, or it is not recovered at the face")
+	}
+}
