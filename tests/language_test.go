@@ -277,3 +277,34 @@ func TestWayOfEntries(t *testing.T) {
 		t.Error("no panic, or it is not recovered at the face")
 	}
 }
+
+func isGenericType(n ast.Node) bool {
+	x, ok := n.(*ast.TypeSpec)
+	return ok && x.TypeParams.NumFields() > 0
+}
+
+// isErrorType sees the method that makes a type an error.
+func isErrorType(n ast.Node) bool {
+	x, ok := n.(*ast.FuncDecl)
+	return ok && x.Recv != nil && x.Name.Name == "Error"
+}
+
+// isCallIn sees a call of a function of a package.
+func isCallIn(pack string, name string) func(n ast.Node) bool {
+	return func(n ast.Node) bool {
+		x, ok := n.(*ast.CallExpr)
+		if !ok {
+			return false
+		}
+		f, ok := x.Fun.(*ast.SelectorExpr)
+		return ok && isName(pack)(f.X) && f.Sel.Name == name
+	}
+}
+
+// Way 10: a log is a generic list; what is over is an error of its own, asked by errors.As.
+func TestWayOfTheStoreOfANode(t *testing.T) {
+	path := "../impl/l10_raft.go"
+	if wayOf(t, path, isGenericType) == 0 || wayOf(t, path, isErrorType) == 0 || wayOf(t, path, isCallIn("errors", "As")) == 0 {
+		t.Error("no generic list, no error of its own, or it is not asked by errors.As")
+	}
+}
