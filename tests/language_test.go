@@ -308,3 +308,44 @@ func TestWayOfTheStoreOfANode(t *testing.T) {
 		t.Error("no generic list, no error of its own, or it is not asked by errors.As")
 	}
 }
+
+// iteratorsIn tells the names of the functions of a file of the program that answer an iterator.
+func iteratorsIn(t *testing.T, path string) []string {
+	t.Helper()
+	var names []string
+	wayOf(t, path, func(n ast.Node) bool {
+		x, ok := n.(*ast.FuncDecl)
+		if !ok || x.Type.Results.NumFields() != 1 {
+			return false
+		}
+		of, ok := x.Type.Results.List[0].Type.(*ast.IndexExpr)
+		if !ok {
+			return false
+		}
+		if seq, ok := of.X.(*ast.SelectorExpr); ok && isName("iter")(seq.X) {
+			names = append(names, x.Name.Name)
+		}
+		return ok
+	})
+	return names
+}
+
+// isRangeOf sees a range over what one of the named functions answers.
+func isRangeOf(names ...string) func(n ast.Node) bool {
+	return func(n ast.Node) bool {
+		x, ok := n.(*ast.RangeStmt)
+		if !ok {
+			return false
+		}
+		call, ok := x.X.(*ast.CallExpr)
+		return ok && isName(names...)(call.Fun)
+	}
+}
+
+// Way 11: blocks are told by an iterator that is ranged over.
+func TestWayOfTheStoreInBlocks(t *testing.T) {
+	path := "../impl/l11_image.go"
+	if wayOf(t, path, isRangeOf(iteratorsIn(t, path)...)) == 0 {
+		t.Error("no iterator, or it is not ranged over")
+	}
+}
