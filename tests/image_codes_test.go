@@ -86,7 +86,7 @@ func homeSnapIn(h plainHomes, there bool) ([]int64, bool) {
 
 func homeStoreIn(h plainHomes) (impl.Raft, bool) {
 	meta := h[2]
-	if len(meta) != 5 || meta[4] > 14 || len(h[23]) > 0 {
+	if len(meta) != 5 || meta[4] > 14 || len(h[23])+len(h[38])+len(h[39]) > 0 {
 		return impl.Raft{}, false
 	}
 	r := impl.Raft{Term: meta[0], Vote: meta[1], SnapIndex: meta[2], SnapTerm: meta[3]}
@@ -257,6 +257,8 @@ func TestLoadRaftCodesInTheirOrder(t *testing.T) {
 		{"no block of the store, but a map", []impl.Put{{At: 0, Words: []int64{0, 0}}}, impl.ErrText},
 		{"no block of the store, but a map and a directory", []impl.Put{{At: 0, Words: []int64{0, 0}}, {At: 1, Words: []int64{0}}}, impl.ErrText},
 		{"no block of the store, but one that none uses", []impl.Put{{At: 23, Words: []int64{1}}}, impl.ErrText},
+		{"no block of the store, but one behind the slots", []impl.Put{{At: 39, Words: []int64{1}}}, impl.ErrText},
+		{"a block behind the slots without words", []impl.Put{meta, {At: 39}}, impl.ErrForm},
 	}
 	for _, c := range cases {
 		wantRaftCode(t, c.name, impl.LoadRaft(c.puts), c.code)

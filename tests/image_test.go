@@ -171,7 +171,7 @@ func passedOver(r impl.Raft) []int64 {
 	h.put(homeImage(r))
 	var list []int64
 	for at := range int64(40) {
-		if len(h[at]) == 0 && (at >= 3 && at <= 22 || at >= 24) {
+		if len(h[at]) == 0 && (at >= 3 && at <= 22 || at >= 24 && at <= 37) {
 			list = append(list, at)
 		}
 	}
@@ -219,10 +219,10 @@ func TestBlocksOfAnEarlierStoreArePassedOver(t *testing.T) {
 	}
 }
 
-// Block 23 is between data and entries; those behind the slots are from EntriesAt on.
+// Block 23 is between data and slots, and 38 and 39 are behind the last slot.
 func TestBlocksThatNoStoreUses(t *testing.T) {
 	for _, r := range slices.Concat(smallStores(), edgeStores()) {
-		for at, code := range map[int64]int64{22: impl.OK, 23: impl.ErrText, 38: impl.OK, 39: impl.OK} {
+		for at, code := range map[int64]int64{22: impl.OK, 23: impl.ErrText, 38: impl.ErrText, 39: impl.ErrText} {
 			for _, words := range [][]int64{{0}, {1, 2, 0}, same(9, 64)} {
 				var h plainHomes
 				h.put(homeImage(r))
@@ -230,6 +230,30 @@ func TestBlocksThatNoStoreUses(t *testing.T) {
 				wantRaftCode(t, "a block that is not used", impl.LoadRaft(h.view()), code)
 				wantLoad(t, "a block that is not used", h.view())
 			}
+		}
+	}
+}
+
+// From EntriesAt on a block is passed over where an index has its slot, and there alone.
+func TestOnlySlotsOfEntriesArePassedOver(t *testing.T) {
+	slots := map[int64]bool{}
+	for index := range int64(9999) {
+		slots[impl.SlotFor(index+1).Value] = true
+	}
+	bare := impl.Raft{Term: 1}
+	whole := impl.Raft{Term: 3, Vote: 2, SnapIndex: 3, SnapTerm: 3, Snap: []int64{94, 14, 17, 1, 42, 64, 68, 9, 37, 80}}
+	whole.Log = []impl.Entry{entryOf(4, 3, 59, 46, 81), entryOf(5, 3, 46, 83)}
+	for _, r := range []impl.Raft{bare, whole} {
+		image := homeImage(r)
+		for at := int64(24); at < 40; at++ {
+			if at == 28 || at == 29 {
+				continue
+			}
+			want := impl.RaftResult{Code: impl.ErrText}
+			if slots[at] {
+				want = impl.RaftResult{Raft: r}
+			}
+			wantRaftResult(t, "a block from EntriesAt on", impl.LoadRaft(withBlock(image, at, []int64{1, 1, 0})), want)
 		}
 	}
 }
