@@ -246,7 +246,7 @@ func TestOnlySlotsOfEntriesArePassedOver(t *testing.T) {
 	for _, r := range []impl.Raft{bare, whole} {
 		image := homeImage(r)
 		for at := int64(24); at < 40; at++ {
-			if at == 28 || at == 29 {
+			if slices.ContainsFunc(image, func(p impl.Put) bool { return p.At == at }) {
 				continue
 			}
 			want := impl.RaftResult{Code: impl.ErrText}
