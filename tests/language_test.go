@@ -349,3 +349,54 @@ func TestWayOfTheStoreInBlocks(t *testing.T) {
 		t.Error("no iterator, or it is not ranged over")
 	}
 }
+
+func isFallthrough(n ast.Node) bool {
+	x, ok := n.(*ast.BranchStmt)
+	return ok && x.Tok == token.FALLTHROUGH
+}
+
+func isTypeSwitch(n ast.Node) bool {
+	_, ok := n.(*ast.TypeSwitchStmt)
+	return ok
+}
+
+// functionTypesIn tells the names of the function types of a file of the program.
+func functionTypesIn(t *testing.T, path string) []string {
+	t.Helper()
+	var names []string
+	wayOf(t, path, func(n ast.Node) bool {
+		if isFunctionType(n) {
+			names = append(names, n.(*ast.TypeSpec).Name.Name)
+		}
+		return true
+	})
+	return names
+}
+
+// isFunctionTable sees a table, inside a function, of values of the named function types.
+func isFunctionTable(names ...string) func(n ast.Node) bool {
+	return func(n ast.Node) bool {
+		f, ok := n.(*ast.FuncDecl)
+		if !ok {
+			return false
+		}
+		found := false
+		ast.Inspect(f, func(n ast.Node) bool {
+			row, ok := n.(*ast.KeyValueExpr)
+			found = found || ok && slices.ContainsFunc(names, func(name string) bool { return isCallOf(name)(row.Value) })
+			return true
+		})
+		return found
+	}
+}
+
+// Way 12: an operation is a type switch over an interface; kinds fall through; each is a function value in a table in a function.
+func TestWayOfTransactions(t *testing.T) {
+	path := "../impl/l12_txn.go"
+	if wayOf(t, path, isTypeSwitch) == 0 || wayOf(t, path, isFallthrough) == 0 {
+		t.Error("no type switch or no kind that falls through")
+	}
+	if wayOf(t, path, isFunctionTable(functionTypesIn(t, path)...)) == 0 {
+		t.Error("no table of function values in a function")
+	}
+}
