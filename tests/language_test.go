@@ -400,3 +400,34 @@ func TestWayOfTransactions(t *testing.T) {
 		t.Error("no table of function values in a function")
 	}
 }
+
+// isPutOff sees an exported function that opens something, and a function literal that is deferred there and makes its result of a method.
+func isPutOff(n ast.Node) bool {
+	x, ok := n.(*ast.FuncDecl)
+	return ok && x.Name.IsExported() && slices.ContainsFunc(x.Body.List, isDeferredMethod)
+}
+
+func isDeferredMethod(s ast.Stmt) bool {
+	x, ok := s.(*ast.DeferStmt)
+	if !ok {
+		return false
+	}
+	found := false
+	ast.Inspect(x.Call.Fun, func(n ast.Node) bool {
+		call, ok := n.(*ast.CallExpr)
+		if ok {
+			_, ok = call.Fun.(*ast.SelectorExpr)
+		}
+		found = found || ok
+		return true
+	})
+	return found
+}
+
+// Way 13: what is open is put off by a deferred function.
+func TestWayOfTheWorld(t *testing.T) {
+	path := "../impl/l13_world.go"
+	if wayOf(t, path, isPutOff) == 0 {
+		t.Error("nothing that is open is put off by a deferred function")
+	}
+}
