@@ -431,3 +431,52 @@ func TestWayOfTheWorld(t *testing.T) {
 		t.Error("nothing that is open is put off by a deferred function")
 	}
 }
+
+func isChannel(n ast.Node) bool {
+	_, ok := n.(*ast.ChanType)
+	return ok
+}
+
+// isHearing sees a function that makes a channel and ranges over it.
+func isHearing(n ast.Node) bool {
+	x, ok := n.(*ast.FuncDecl)
+	if !ok {
+		return false
+	}
+	names := []string{}
+	heard := false
+	ast.Inspect(x, func(n ast.Node) bool {
+		if made, ok := n.(*ast.AssignStmt); ok && len(made.Lhs) == 1 && isMadeChannel(made.Rhs[0]) {
+			names = append(names, made.Lhs[0].(*ast.Ident).Name)
+		}
+		if loop, ok := n.(*ast.RangeStmt); ok {
+			heard = heard || isName(names...)(loop.X)
+		}
+		return true
+	})
+	return heard
+}
+
+func isMadeChannel(n ast.Expr) bool {
+	call, ok := n.(*ast.CallExpr)
+	return ok && isName("make")(call.Fun) && isChannel(call.Args[0])
+}
+
+// Way 14: RunSched alone hears its picks from a channel that is closed.
+func TestWayOfWhoIsPicked(t *testing.T) {
+	path := "../impl/l14_sched.go"
+	isRun := func(n ast.Node) bool {
+		x, ok := n.(*ast.FuncDecl)
+		return ok && x.Name.Name == "RunSched" && isHearing(n)
+	}
+	if wayOf(t, path, isRun) != 1 || wayOf(t, path, isCallOf("close")) != 1 {
+		t.Error("RunSched hears no picks, or they have no end")
+	}
+	for _, file := range programFiles(t) {
+		if hearing := wayOf(t, file, isHearing); hearing > 0 && file != path {
+			t.Errorf("%s: hears something as well", file)
+		} else if hearing > 1 {
+			t.Errorf("%s: RunSched is not alone", file)
+		}
+	}
+}
