@@ -480,3 +480,54 @@ func TestWayOfWhoIsPicked(t *testing.T) {
 		}
 	}
 }
+
+// variadicsIn tells the names of the functions of a file of the program that take as many arguments as there are.
+func variadicsIn(t *testing.T, path string) []string {
+	t.Helper()
+	var names []string
+	wayOf(t, path, func(n ast.Node) bool {
+		x, ok := n.(*ast.FuncDecl)
+		if !ok || x.Type.Params.NumFields() == 0 {
+			return false
+		}
+		params := x.Type.Params.List
+		if _, ok = params[len(params)-1].Type.(*ast.Ellipsis); ok {
+			names = append(names, x.Name.Name)
+		}
+		return ok
+	})
+	return names
+}
+
+// isLeavingBoth sees a loop that has a label, in which a loop is left together with it.
+func isLeavingBoth(n ast.Node) bool {
+	outer, ok := n.(*ast.LabeledStmt)
+	if !ok {
+		return false
+	}
+	left := false
+	ast.Inspect(outer.Stmt, func(n ast.Node) bool {
+		inner, ok := n.(*ast.RangeStmt)
+		if !ok || n == outer.Stmt {
+			return true
+		}
+		ast.Inspect(inner.Body, func(n ast.Node) bool {
+			leave, ok := n.(*ast.BranchStmt)
+			left = left || ok && leave.Tok == token.BREAK && leave.Label != nil && leave.Label.Name == outer.Label.Name
+			return true
+		})
+		return true
+	})
+	return left
+}
+
+// Way 15: histories are told to a variadic function; a label leaves both loops.
+func TestWayOfWhatItLooksLikeFromOutside(t *testing.T) {
+	path := "../impl/l15_audit.go"
+	isTelling := func(n ast.Node) bool {
+		return slices.ContainsFunc(variadicsIn(t, path), func(name string) bool { return isCallOf(name)(n) })
+	}
+	if wayOf(t, path, isTelling) == 0 || wayOf(t, path, isLeavingBoth) == 0 {
+		t.Error("no variadic function that is told something, or no label that leaves both loops")
+	}
+}
