@@ -531,3 +531,56 @@ func TestWayOfWhatItLooksLikeFromOutside(t *testing.T) {
 		t.Error("no variadic function that is told something, or no label that leaves both loops")
 	}
 }
+
+// methodsIn tells the names of the methods of a file of the program.
+func methodsIn(t *testing.T, path string) []string {
+	t.Helper()
+	var names []string
+	wayOf(t, path, func(n ast.Node) bool {
+		if isMethod(n) {
+			names = append(names, n.(*ast.FuncDecl).Name.Name)
+		}
+		return true
+	})
+	return names
+}
+
+// isMethodOf sees a method that is named behind one of these, and not called.
+func isMethodOf(n ast.Node, methods []string, behind []string) bool {
+	x, ok := n.(*ast.SelectorExpr)
+	return ok && isName(behind...)(x.X) && slices.Contains(methods, x.Sel.Name)
+}
+
+// namesIn tells the names of the variables that a file of the program makes in its functions.
+func namesIn(t *testing.T, path string) []string {
+	t.Helper()
+	var names []string
+	wayOf(t, path, func(n ast.Node) bool {
+		x, ok := n.(*ast.AssignStmt)
+		if !ok || x.Tok != token.DEFINE {
+			return false
+		}
+		for _, made := range x.Lhs {
+			names = append(names, made.(*ast.Ident).Name)
+		}
+		return true
+	})
+	return names
+}
+
+// Way 16: commands are method expressions, a line is done by a method value; kinds are constants with iota.
+func TestWayOfScripts(t *testing.T) {
+	path := "../impl/l16_script.go"
+	methods := methodsIn(t, path)
+	isCommand := func(n ast.Node) bool {
+		row, ok := n.(*ast.KeyValueExpr)
+		return ok && isMethodOf(row.Value, methods, structsIn(t, path))
+	}
+	isDoing := func(n ast.Node) bool {
+		call, ok := n.(*ast.CallExpr)
+		return ok && slices.ContainsFunc(call.Args, func(arg ast.Expr) bool { return isMethodOf(arg, methods, namesIn(t, path)) })
+	}
+	if wayOf(t, path, isCommand) < 5 || wayOf(t, path, isDoing) == 0 || wayOf(t, path, isName("iota")) == 0 {
+		t.Error("no commands that are method expressions, no line that is done by a method value, or no kinds with iota")
+	}
+}
